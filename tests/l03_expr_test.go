@@ -580,6 +580,19 @@ func TestPartsThatShareTheirArgs(t *testing.T) {
 	checkFacts(t, con("C", shared, shared, shared), facts{7, 3, 0, true, true, ""})
 }
 
+// TestEqualExprOfSharedParts has as many different pairs of parts as needed for
+// a difference in the last one to be found.
+func TestEqualExprOfSharedParts(t *testing.T) {
+	for levels := range 200 {
+		a, b, c := con("N"), con("N"), con("M")
+		for range levels {
+			a, b, c = con("C", a, a), con("C", b, b), con("C", b, c)
+		}
+		checkEqual(t, a, b, true)
+		checkEqual(t, a, c, false)
+	}
+}
+
 // TestExpressionsLeaveArgumentsAlone covers promise 34 for chapter 3.
 func TestExpressionsLeaveArgumentsAlone(t *testing.T) {
 	build := func() impl.Expr {

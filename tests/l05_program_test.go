@@ -777,9 +777,7 @@ func TestBodiesAtTheLimits(t *testing.T) {
 // TestRulesWithOneFault changes one rule, on which no other one depends, so
 // that the program is not valid for one reason.
 func TestRulesWithOneFault(t *testing.T) {
-	const matching = "f(A(h,t),y) = h; f(N,y) = C(y,id(y)); id(x) = x; two() = S(S(N)); hd(C(h,t)) = h"
-	const plain = "f(x) = x; id(x) = x; two() = S(S(N)); add(N,y) = y; add(C(h,t),y) = C(h,add(t,id(y))); get(N,y) = y"
-	for text, list := range map[string][]oneFault{matching: faultsOfMatching, plain: faultsOfPlain} {
+	for text, list := range map[string][]oneFault{matchingFirst: faultsOfMatching, plainFirst: faultsOfPlain} {
 		valid := programOf(t, text)
 		for _, one := range list {
 			p := cloneProgram(valid)
@@ -801,6 +799,11 @@ type oneFault struct {
 	fault  string
 	change func(r *impl.Rule)
 }
+
+const (
+	matchingFirst = "f(A(h,t),y) = h; f(N,y) = C(y,id(y)); id(x) = x; two() = S(S(N)); hd(C(h,t)) = h"
+	plainFirst    = "f(x) = x; id(x) = x; two() = S(S(N)); add(N,y) = y; add(C(h,t),y) = C(h,add(t,id(y))); get(N,y) = y"
+)
 
 // faultsOfMatching change "f(A(h,t),y) = h".
 var faultsOfMatching = []oneFault{
@@ -1034,25 +1037,33 @@ func smallRules(t *testing.T) []impl.Rule {
 	return rules
 }
 
-func TestAllProgramsOfTwoSmallRules(t *testing.T) {
+// checkSmallPrograms checks all programs of one or two smallRules, some of which
+// are valid, as check returns.
+func checkSmallPrograms(t *testing.T, check func(impl.Program) bool) {
+	t.Helper()
 	rules := smallRules(t)
 	valid := 0
 	for _, first := range rules {
 		for _, second := range rules {
-			if checkProgram(t, impl.Program{Rules: []impl.Rule{first, second}}) {
+			if check(impl.Program{Rules: []impl.Rule{first, second}}) {
 				valid++
 			}
 		}
-		checkProgram(t, impl.Program{Rules: []impl.Rule{first}})
+		check(impl.Program{Rules: []impl.Rule{first}})
 	}
 	if valid < 100 {
 		t.Errorf("only %d programs are valid", valid)
 	}
 }
 
-// TestChangedPrograms puts together parts of valid programs, so that some
-// results are valid and others are not.
-func TestChangedPrograms(t *testing.T) {
+func TestAllSmallPrograms(t *testing.T) {
+	checkSmallPrograms(t, func(p impl.Program) bool { return checkProgram(t, p) })
+}
+
+// checkChangedPrograms checks parts of valid programs put together, so that some
+// are valid and others are not, as check returns.
+func checkChangedPrograms(t *testing.T, rounds int, check func(impl.Program) bool) {
+	t.Helper()
 	var rules []impl.Rule
 	for _, text := range []string{lengths, doubles, adds, patterns, plains, mixed, backward, widest} {
 		rules = append(rules, programOf(t, text).Rules...)
@@ -1063,7 +1074,6 @@ func TestChangedPrograms(t *testing.T) {
 		return int(state>>16) % n
 	}
 	valid := 0
-	const rounds = 4000
 	for range rounds {
 		p := programOf(t, []string{lengths, doubles, patterns, plains, mixed, backward}[next(6)])
 		for range 1 + next(2) {
@@ -1086,13 +1096,17 @@ func TestChangedPrograms(t *testing.T) {
 				*r, p.Rules[0] = p.Rules[0], *r
 			}
 		}
-		if checkProgram(t, p) {
+		if check(p) {
 			valid++
 		}
 	}
 	if valid < rounds/10 || valid > rounds*9/10 {
 		t.Errorf("%d of %d programs are valid", valid, rounds)
 	}
+}
+
+func TestChangedPrograms(t *testing.T) {
+	checkChangedPrograms(t, 4000, func(p impl.Program) bool { return checkProgram(t, p) })
 }
 
 func TestProgramsOfEndlessExpressions(t *testing.T) {

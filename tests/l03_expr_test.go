@@ -399,10 +399,15 @@ func TestNilAndEmptyArgsAreEquivalent(t *testing.T) {
 // smallExpressions returns, each once, all expressions of at most so many
 // nodes over a few right and wrong forms.
 func smallExpressions(size int) []impl.Expr {
-	heads := []impl.Expr{
+	return expressionsOver(size,
 		variable("x"), variable("y"), con("N"), con("n"), call("f"), call("F"), stuck(),
-		{}, {Kind: impl.ExStuck, Name: "x"},
-	}
+		impl.Expr{}, impl.Expr{Kind: impl.ExStuck, Name: "x"},
+	)
+}
+
+// expressionsOver returns, each once, all expressions of at most so many nodes
+// that have the Kinds and Names of heads.
+func expressionsOver(size int, heads ...impl.Expr) []impl.Expr {
 	lists := make([][][]impl.Expr, size)
 	lists[0] = [][]impl.Expr{nil}
 	var all []impl.Expr

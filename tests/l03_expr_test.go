@@ -467,10 +467,7 @@ func TestSmallExpressions(t *testing.T) {
 // irregular is an expression of so many nodes, whose forms and numbers of Args
 // follow from the state, which changes on the way.
 func irregular(size int, state *uint32) impl.Expr {
-	next := func(n int) int {
-		*state = *state*1664525 + 1013904223
-		return int(*state>>16) % n
-	}
+	next := func(n int) int { return nextOf(state, n) }
 	if size == 1 {
 		leaves := []impl.Expr{variable("x"), variable("y"), con("N"), call("f"), stuck()}
 		return leaves[next(len(leaves))]
@@ -488,6 +485,17 @@ func irregular(size int, state *uint32) impl.Expr {
 		left -= part
 	}
 	return e
+}
+
+// nextOf is some number below n.
+func nextOf(state *uint32, n int) int {
+	*state = *state*1664525 + 1013904223
+	return int(*state>>16) % n
+}
+
+// numbersFrom returns a function that returns numbers below its argument.
+func numbersFrom(state uint32) func(int) int {
+	return func(n int) int { return nextOf(&state, n) }
 }
 
 func TestIrregularExpressions(t *testing.T) {

@@ -774,23 +774,31 @@ func TestBodiesAtTheLimits(t *testing.T) {
 	checkFault(t, withBody(con("Q", copies(argsLimit+1, con("N"))...)), faultBody)
 }
 
-// TestRulesWithOneFault changes one rule, on which no other one depends, so
-// that the program is not valid for one reason.
 func TestRulesWithOneFault(t *testing.T) {
+	withOneFault(t, func(p impl.Program, fault string) { checkFault(t, p, fault) })
+	for _, text := range []string{matchingFirst, plainFirst} {
+		valid := programOf(t, text)
+		for range valid.Rules {
+			checkValid(t, valid)
+			valid.Rules = append(valid.Rules[1:], valid.Rules[0])
+		}
+	}
+}
+
+// withOneFault changes one rule, on which no other one depends, so that the
+// program is not valid for one reason.
+func withOneFault(t *testing.T, check func(p impl.Program, fault string)) {
+	t.Helper()
 	for text, list := range map[string][]oneFault{matchingFirst: faultsOfMatching, plainFirst: faultsOfPlain} {
 		valid := programOf(t, text)
 		for _, one := range list {
 			p := cloneProgram(valid)
 			one.change(&p.Rules[0])
 			for range p.Rules {
-				checkFault(t, p, one.fault)
+				check(p, one.fault)
 				// The rule may be any one of the program.
 				p.Rules = append(p.Rules[1:], p.Rules[0])
 			}
-		}
-		for range valid.Rules {
-			checkValid(t, valid)
-			valid.Rules = append(valid.Rules[1:], valid.Rules[0])
 		}
 	}
 }
@@ -1068,11 +1076,7 @@ func checkChangedPrograms(t *testing.T, rounds int, check func(impl.Program) boo
 	for _, text := range []string{lengths, doubles, adds, patterns, plains, mixed, backward, widest} {
 		rules = append(rules, programOf(t, text).Rules...)
 	}
-	state := uint32(5)
-	next := func(n int) int {
-		state = state*1664525 + 1013904223
-		return int(state>>16) % n
-	}
+	next := numbersFrom(5)
 	valid := 0
 	for range rounds {
 		p := programOf(t, []string{lengths, doubles, patterns, plains, mixed, backward}[next(6)])

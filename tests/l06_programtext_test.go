@@ -521,18 +521,11 @@ func TestTextsOfRulesThatMakeNoProgram(t *testing.T) {
 }
 
 func TestTextsOfRulesWithOneFault(t *testing.T) {
-	for text, list := range map[string][]oneFault{matchingFirst: faultsOfMatching, plainFirst: faultsOfPlain} {
-		for _, one := range list {
-			p := programOf(t, text)
-			one.change(&p.Rules[0])
-			for range p.Rules {
-				if checkWrittenProgram(t, p) {
-					t.Errorf("%s is valid", programText(p))
-				}
-				p.Rules = append(p.Rules[1:], p.Rules[0])
-			}
+	withOneFault(t, func(p impl.Program, fault string) {
+		if checkWrittenProgram(t, p) {
+			t.Errorf("%s is valid", programText(p))
 		}
-	}
+	})
 }
 
 func TestTextsOfSmallPrograms(t *testing.T) {

@@ -961,6 +961,35 @@ func TestPartsOfLargeResultsAreSeparate(t *testing.T) {
 	checkSeparate(t, "ApplyBindings of a deep expression", parts)
 }
 
+// TestPartsOfHugeResultsAreSeparate has results of more than 8 million nodes. No
+// number of nodes allows what shares nothing in the arguments to share memory in
+// the result, whatever else is shared there.
+func TestPartsOfHugeResultsAreSeparate(t *testing.T) {
+	t.Parallel()
+	const size = 2900
+	n := con("N")
+	value := con("L", copies(size, n)...)
+	list := []impl.Binding{binding("x", value), binding("y", value), binding("z", dense(100, n))}
+	places := slices.Concat(copies(size/2, variable("x")), copies(size/2, variable("y")))
+	result := impl.ApplyBindings(con("C", con("P", places...), dense(100, n), variable("z")), list)
+	for _, part := range result.Args[1:] {
+		checkBigEqual(t, "ApplyBindings of shared parts", part, dense(100, n))
+	}
+	found, _ := impl.FindBinding([]impl.Binding{binding("x", result.Args[0])}, "x")
+	checkSeparate(t, "ApplyBindings", result.Args[0].Args)
+	checkBigEqual(t, "FindBinding", found, con("P", copies(size, value)...))
+	checkSeparate(t, "FindBinding", found.Args)
+	checkBigEqual(t, "the Value", value, con("L", copies(size, n)...))
+}
+
+func TestHugeResultOfInsertingIntoItself(t *testing.T) {
+	t.Parallel()
+	e := con("P", copies(2900, variable("x"))...)
+	result := impl.ApplyBindings(e, []impl.Binding{binding("x", e)})
+	checkBigEqual(t, "ApplyBindings", result, con("P", copies(2900, e)...))
+	checkSeparate(t, "ApplyBindings", result.Args)
+}
+
 // TestPartsOfLargeCopiesAreSeparate has results that are parts of an argument.
 func TestPartsOfLargeCopiesAreSeparate(t *testing.T) {
 	x, y, n := variable("x"), variable("y"), con("N")

@@ -589,6 +589,12 @@ func TestPartsThatShareTheirArgs(t *testing.T) {
 	if endless := con("C", args...); impl.IsValidExpr(endless) || impl.IsData(endless) {
 		t.Error("an expression that is a part of itself is valid")
 	}
+	x, y := variable("x"), variable("y")
+	for _, e := range []impl.Expr{con("D", dense(200, x), y, dense(200, y)), denseBut(200, x, y), con("D", x, endlessList(y)), endlessList(con("D", x, endlessList(y))), con("D", ring(3), x, y)} {
+		if got := impl.VarsOf(e); !slices.Equal(got, []string{"x", "y"}) {
+			t.Errorf("VarsOf shared parts = %q", got)
+		}
+	}
 	shared := con("S", con("N"))
 	checkFacts(t, con("C", shared, shared, shared), facts{7, 3, 0, true, true, ""})
 }

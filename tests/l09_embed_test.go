@@ -680,21 +680,25 @@ func graphOf(heads []impl.Expr, args [][]int) []impl.Expr {
 	return nodes
 }
 
+// anyGraph is a graph of so many nodes, with the first ones of a few heads.
+func anyGraph(count int, most int, next func(int) int) (heads []impl.Expr, args [][]int) {
+	for range count {
+		heads = append(heads, []impl.Expr{con("S"), con("T"), con("N"), call("S"), variable("x"), variable("y")}[next(most)])
+		args = append(args, nil)
+		for range next(3) {
+			args[len(args)-1] = append(args[len(args)-1], next(count))
+		}
+	}
+	return heads, args
+}
+
 // TestEmbeddingsOfGraphs has expressions of which most are parts of themselves.
 func TestEmbeddingsOfGraphs(t *testing.T) {
 	t.Parallel()
 	next, found := numbersFrom(21), map[fit]int{}
 	for round := range 3000 {
-		var heads []impl.Expr
-		var args [][]int
 		count := 1 + round%7
-		for range count {
-			heads = append(heads, []impl.Expr{con("S"), con("T"), con("N"), call("S"), variable("x"), variable("y")}[next(2+round%5)])
-			args = append(args, nil)
-			for range next(3) {
-				args[len(args)-1] = append(args[len(args)-1], next(count))
-			}
-		}
+		heads, args := anyGraph(count, 2+round%5, next)
 		embeds, nodes, others := meantOfGraph(heads, args), graphOf(heads, args), graphOf(heads, args)
 		for a := range nodes {
 			for b := range nodes {

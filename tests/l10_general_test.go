@@ -463,12 +463,12 @@ func TestGeneralizationsOfDifferentTowers(t *testing.T) {
 		cs = append(cs, con("S", spine(count, 1, 0, con("N"), con("N"+strconv.Itoa(i/2)))))
 	}
 	for _, pair := range [][2][]impl.Expr{{as, cs}, {cs, bs}, {bs, cs}, {append(slices.Clone(bs), as...), append(slices.Clone(cs), cs...)}} {
-		g := checkBigGeneral(t, time.Second, "towers", con("Q", pair[0]...), con("Q", pair[1]...))
+		g := checkBigGeneral(t, time.Minute, "towers", con("Q", pair[0]...), con("Q", pair[1]...))
 		if len(g.First) != len(pair[0]) {
 			t.Errorf("%d new variables for %d pairs", len(g.First), len(pair[0]))
 		}
 	}
-	g := checkBigGeneral(t, time.Second, "towers that occur again", con("Q", append(copies(count, as[0]), as[1])...), con("Q", append(copies(count, cs[0]), cs[0])...))
+	g := checkBigGeneral(t, time.Minute, "towers that occur again", con("Q", append(copies(count, as[0]), as[1])...), con("Q", append(copies(count, cs[0]), cs[0])...))
 	if len(g.First) != 2 || g.Term.Args[0].Name != "v1" || g.Term.Args[count-1].Name != "v1" || g.Term.Args[count].Name != "v2" {
 		t.Errorf("%d new variables for two pairs", len(g.First))
 	}
